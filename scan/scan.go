@@ -7,15 +7,15 @@ import (
 	"unicode/utf8"
 )
 
-// stand is the number that stands for a bad byte; standText are the bytes of the character that has this number.
+// badNumber stands for a bad byte; fffdText are the bytes of the character that has this number.
 const (
-	stand     = '\uFFFD'
-	standText = "\uFFFD"
+	badNumber = '\uFFFD'
+	fffdText  = "\uFFFD"
 )
 
 // isBad tells whether the number r, to which s begins, stands for a bad byte: the character of that number has bytes of its own.
 func isBad(s string, r rune) bool {
-	return r == stand && !strings.HasPrefix(s, standText)
+	return r == badNumber && !strings.HasPrefix(s, fffdText)
 }
 
 // Next tells the first number of s and how many bytes it has (P1.1).
@@ -109,7 +109,7 @@ func (r *Reader) Feed(b []byte) []rune {
 walk:
 	for at, c := range text {
 		switch {
-		case c == stand && !Whole(text[at:]):
+		case c == badNumber && !Whole(text[at:]):
 			left = at
 			break walk
 		default:
