@@ -13,7 +13,7 @@ const (
 	fffdText  = "\uFFFD"
 )
 
-// isBad tells whether the number r, to which s begins, stands for a bad byte: the character of that number has bytes of its own.
+// isBad tells whether the number r, with which s begins, stands for a bad byte: the character of that number has bytes of its own.
 func isBad(s string, r rune) bool {
 	return r == badNumber && !strings.HasPrefix(s, fffdText)
 }
