@@ -1,0 +1,176 @@
+package cluster
+
+import (
+	"shuttle/class"
+	"shuttle/scan"
+)
+
+// The map of the layers has this one call scan and class alone, so that these numbers of package api stand here once more; a test holds them against those.
+const (
+	badNumber   = 0xFFFD
+	maxRunes    = 32
+	kindControl = 0
+	kindFormat  = 1
+	kindMark    = 2
+	kindSymbol  = 7
+)
+
+// Characters that the chapter names.
+const (
+	lineFeed           = 0x0A
+	carriageReturn     = 0x0D
+	zeroWidthNonJoiner = 0x200C
+	zeroWidthJoiner    = 0x200D
+	lineSeparator      = 0x2028
+	paragraphSeparator = 0x2029
+	firstRegional      = 0x1F1E6
+	lastRegional       = 0x1F1FF
+)
+
+// Where the stretches of a syllable's parts begin and end.
+const (
+	firstLead     = 0x1100
+	firstVowel    = 0x1160
+	firstFinal    = 0x11A8
+	lastFinal     = 0x11FF
+	firstSyllable = 0xAC00
+	lastSyllable  = 0xD7A3
+	finals        = 28 // syllables that are alike but for what ends them, with the one that nothing ends
+)
+
+// role is what a character does in clusters: a bit, so that several can be asked for at one time.
+type role uint16
+
+const none role = 0
+
+const (
+	alone    role = 1 << iota // a cluster by itself, and a bad byte
+	carriage                  // 0D
+	feed                      // 0A
+	mark                      // a mark, or 200C
+	joiner                    // 200D
+	regional
+	picture
+	lead   // L
+	vowel  // V
+	final  // T
+	open   // LV
+	closed // LVT
+	other
+	every = 1<<iota - 1
+)
+
+// roleOf tells the role of the number r, which stands in size bytes.
+func roleOf(r rune, size int) role {
+	switch {
+	case r == badNumber && size == 1:
+		return alone
+	case r == carriageReturn:
+		return carriage
+	case r == lineFeed:
+		return feed
+	case r == zeroWidthNonJoiner:
+		return mark
+	case r == zeroWidthJoiner:
+		return joiner
+	case r == lineSeparator, r == paragraphSeparator:
+		return alone
+	case firstRegional <= r && r <= lastRegional:
+		return regional
+	case firstLead <= r && r <= lastFinal:
+		return roleOfPart(r)
+	case firstSyllable <= r && r <= lastSyllable:
+		return roleOfSyllable(r)
+	}
+	return roleOfKind(r)
+}
+
+func roleOfPart(r rune) role {
+	switch {
+	case r < firstVowel:
+		return lead
+	case r < firstFinal:
+		return vowel
+	}
+	return final
+}
+
+func roleOfSyllable(r rune) role {
+	if (r-firstSyllable)%finals == 0 {
+		return open
+	}
+	return closed
+}
+
+// roleOfKind tells the role of a character that the chapter does not name by its number.
+func roleOfKind(r rune) role {
+	switch class.Kind(r) {
+	case kindControl, kindFormat:
+		return alone
+	case kindMark:
+		return mark
+	case kindSymbol:
+		if class.Wide(r, false) == 2 {
+			return picture
+		}
+	}
+	return other
+}
+
+// reader takes the characters of one cluster.
+type reader struct {
+	text  string
+	at    int // the end of what is taken
+	taken int
+}
+
+// take takes the next character, if it has one of the wanted roles and the cluster has room; it tells the role, and none, if nothing is taken.
+func (in *reader) take(wanted role) role {
+	r, size := scan.Next(in.text[in.at:])
+	if size == 0 || in.taken == maxRunes {
+		return none
+	}
+	got := roleOf(r, size) & wanted
+	if got != none {
+		in.at += size
+		in.taken++
+	}
+	return got
+}
+
+// isCertain tells whether at, where a character or bad byte begins, is a border by what stands right ahead of it and right behind it alone.
+func isCertain(s string, at int) bool {
+	if at == 0 {
+		return true
+	}
+	z, ahead := scan.Last(s[:at])
+	y, behind := scan.Next(s[at:])
+	// Two characters that are parted by themselves are so everywhere, but for a joiner and a picture: there it hangs on what their cluster begins with.
+	if z == zeroWidthJoiner && roleOf(y, behind) == picture {
+		return false
+	}
+	return Next(s[at-ahead:at+behind]) == ahead
+}
+
+// certain tells the last border up to the byte at that is certain.
+func certain(s string, at int) int {
+	for from := range scan.Back(s[:endOfCharacter(s, at)]) {
+		if isCertain(s, from) {
+			return from
+		}
+	}
+	return 0
+}
+
+// endOfCharacter tells the end of the character or bad byte that has the byte at.
+func endOfCharacter(s string, at int) int {
+	const longest = 4
+	// No character lies over another one: the first that has the byte is the one that s is gone through by.
+	for from := max(at-longest+1, 0); from < at; from++ {
+		if _, size := scan.Next(s[from:]); from+size > at {
+			return from + size
+		}
+	}
+	_, size := scan.Next(s[at:])
+	return at + size
+}
