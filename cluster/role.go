@@ -1,9 +1,6 @@
 package cluster
 
-import (
-	"shuttle/class"
-	"shuttle/scan"
-)
+import "shuttle/class"
 
 // The map of the layers has this one call scan and class alone, so that these numbers of package api stand here once more; a test holds them against those.
 const (
@@ -115,62 +112,4 @@ func roleOfKind(r rune) role {
 		}
 	}
 	return other
-}
-
-// reader takes the characters of one cluster.
-type reader struct {
-	text  string
-	at    int // the end of what is taken
-	taken int
-}
-
-// take takes the next character, if it has one of the wanted roles and the cluster has room; it tells the role, and none, if nothing is taken.
-func (in *reader) take(wanted role) role {
-	r, size := scan.Next(in.text[in.at:])
-	if size == 0 || in.taken == maxRunes {
-		return none
-	}
-	got := roleOf(r, size) & wanted
-	if got != none {
-		in.at += size
-		in.taken++
-	}
-	return got
-}
-
-// isCertain tells whether at, where a character or bad byte begins, is a border by what stands right ahead of it and right behind it alone.
-func isCertain(s string, at int) bool {
-	if at == 0 {
-		return true
-	}
-	z, ahead := scan.Last(s[:at])
-	y, behind := scan.Next(s[at:])
-	// Two characters that are parted by themselves are so everywhere, but for a joiner and a picture: there it hangs on what their cluster begins with.
-	if z == zeroWidthJoiner && roleOf(y, behind) == picture {
-		return false
-	}
-	return Next(s[at-ahead:at+behind]) == ahead
-}
-
-// certain tells the last border up to the byte at that is certain.
-func certain(s string, at int) int {
-	for from := range scan.Back(s[:endOfCharacter(s, at)]) {
-		if isCertain(s, from) {
-			return from
-		}
-	}
-	return 0
-}
-
-// endOfCharacter tells the end of the character or bad byte that has the byte at.
-func endOfCharacter(s string, at int) int {
-	const longest = 4
-	// No character lies over another one: the first that has the byte is the one that s is gone through by.
-	for from := max(at-longest+1, 0); from < at; from++ {
-		if _, size := scan.Next(s[from:]); from+size > at {
-			return from + size
-		}
-	}
-	_, size := scan.Next(s[at:])
-	return at + size
 }
